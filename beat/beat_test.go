@@ -67,6 +67,21 @@ func TestPong(t *testing.T) {
 	step(t, b, 25, Ping, "\x00\x00\x00\x00\x00\x00\x00\x03")
 }
 
+// P18.2
+func TestHeard(t *testing.T) {
+	b := made(t, 5, 3)
+	b.Heard(7)
+	step(t, b, 11, Quiet, "")
+	b.Heard(3)
+	step(t, b, 15, Quiet, "")
+	step(t, b, 16, Ping, first)
+	off := made(t, 0, 0)
+	off.Heard(5)
+	if off.heard != 5 {
+		t.Error("off")
+	}
+}
+
 // P18.3
 func TestStep(t *testing.T) {
 	b := made(t, 5, 3)
@@ -112,7 +127,14 @@ func TestLooks(t *testing.T) {
 			t.Fatal(k, what)
 		}
 	}
-	if _, s := b.Step(301); s != "\x00\x00\x00\x00\x00\x00\x01\x2d" {
+	b.count = 1<<31 - 2
+	for i, want := range []string{"\x00\x00\x00\x00\x7f\xff\xff\xff", "\x00\x00\x00\x00\x00\x00\x00\x00", first} {
+		if _, s := b.Step(301 + i); s != want || !b.Pong(301+i, s) {
+			t.Errorf("modulo: %q", s)
+		}
+	}
+	b.count = 300
+	if _, s := b.Step(304); s != "\x00\x00\x00\x00\x00\x00\x01\x2d" {
 		t.Errorf("%q", s)
 	}
 }

@@ -82,16 +82,16 @@ func closedBy(t *testing.T, x *Conn, code int) {
 	if x.Receive("") != api.ErrClosed || len(x.Moves()) != 0 {
 		t.Error("receives")
 	}
-	if _, e := x.Open(9, 9, api.Dep{}); e != api.ErrClosed {
+	if id, e := x.Open(9, 9, api.Dep{}); id != 0 || e != api.ErrClosed {
 		t.Error("opens")
 	}
-	if _, e := x.Offer(1, ""); e != api.ErrClosed {
+	if n, e := x.Offer(1, ""); n != 0 || e != api.ErrClosed {
 		t.Error("offers")
 	}
-	if _, _, e := x.Read(1, 1); e != api.ErrClosed {
+	if s, end, e := x.Read(1, 1); s != "" || end || e != api.ErrClosed {
 		t.Error("reads")
 	}
-	if _, _, _, e := x.Item(1); e != api.ErrClosed {
+	if s, is, end, e := x.Item(1); s != "" || is || end || e != api.ErrClosed {
 		t.Error("items")
 	}
 	for i, e := range []api.Errno{x.Finish(1), x.Ask(1, 1), x.Move(1, api.Dep{}), x.Reset(1, -1), x.Goaway(), x.Settings(api.Settings{})} {
@@ -229,6 +229,38 @@ func TestOpen(t *testing.T) {
 	}
 	if _, e := (*Conn)(nil).Open(0, 0, leaf); e != api.ErrNil {
 		t.Error("nil")
+	}
+}
+
+// P26.2: numbers, weights, and streams, as many as may be.
+func TestMost(t *testing.T) {
+	x := made(t, 0, conf())
+	x.ids.Skip(api.MaxID - 2)
+	if id, e := x.Open(api.KBytes, 0, api.Dep{On: api.MaxID - 1, Weight: 256}); id != api.MaxID || e != api.OK {
+		t.Error("the last number", id, int(e))
+	}
+	if id, e := x.Open(api.KBytes, 0, api.Dep{}); id != 0 || e != api.ErrLimit {
+		t.Error("no number is left", id, int(e))
+	}
+	if x.Move(api.MaxID, api.Dep{On: api.MaxID - 1, Weight: 256}) != api.OK {
+		t.Error("move")
+	}
+	c := conf()
+	c.Streams = 32
+	y := settled(t, 1, c)
+	feed(t, y, fSettings(api.Param{ID: api.PStreams, Value: 99}))
+	for i := range 33 {
+		y.Open(api.KItems, api.KeepLatest, leaf)
+		feed(t, y, fOpen(2*i+1, api.KBytes, leaf))
+		y.Step()
+	}
+	if st := y.Status(); st.Streams != 64 || st.Own != 32 || y.tree.Len() != 64 || y.Credit().Free(63) != 64 {
+		t.Error("64 streams", st)
+	}
+	for i, want := range []int{1, 1, 1, 1, 1, 1, 1, 1, 3} {
+		if n, e := y.Offer(2, "i"); n != want || e != api.OK {
+			t.Error("its strategy", i, n)
+		}
 	}
 }
 

@@ -296,6 +296,39 @@ func TestVFlood(t *testing.T) {
 	}
 }
 
+// P26.5, P26.7: an item with the end, and one of nothing.
+func TestItemMoves(t *testing.T) {
+	x := opened(t)
+	x.Ask(4, 2)
+	x.Step()
+	feed(t, x, fItem(4, "", false), fItem(4, "z", true))
+	moved(t, x, api.Move{What: api.MCame, Stream: 4, N: 1}, api.Move{What: api.MCame, Stream: 4, N: 1, S: "z", End: true})
+	feed(t, x, fItem(3, "", true))
+	moved(t, x, api.Move{What: api.MCame, Stream: 3, End: true})
+}
+
+// P26.4, P26.5: a stream both of whose ends came, but which is not read, is killed: what it kept is used.
+func TestKilledLate(t *testing.T) {
+	for _, own := range []bool{false, true} {
+		x := opened(t)
+		feed(t, x, fData(2, "abc", true))
+		x.Finish(2)
+		x.Step()
+		if x.Stream(2) == nil || x.Recv().Kept() != 3 {
+			t.Error("it is there")
+		}
+		if own {
+			x.Reset(2, 8)
+		} else {
+			feed(t, x, fReset(2, 8))
+		}
+		moved(t, x, api.Move{What: api.MDone, Stream: 2, N: 8})
+		if x.Recv().Kept() != 0 || x.Stream(2) != nil {
+			t.Error("used", x.Recv().Kept())
+		}
+	}
+}
+
 // P26.5: priorities, resets, credit, demand.
 func TestOthers(t *testing.T) {
 	x := opened(t)

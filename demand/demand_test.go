@@ -16,6 +16,9 @@ func TestNewAdd(t *testing.T) {
 			t.Error(n)
 		}
 	}
+	if d, e := New(1); d == nil || e != api.OK {
+		t.Error("the least limit")
+	}
 	d, e := New(10)
 	if e != api.OK || d.Left() != 0 || d.Endless() {
 		t.Fatal("new")

@@ -47,7 +47,7 @@ func TestAnswer(t *testing.T) {
 		if e != api.OK || !frame.Same(f, g) || frame.Check(f) != api.OK {
 			t.Error(what, f)
 		}
-		for _, n := range []int{-1, 0, api.MaxID, api.MaxID + 1} {
+		for _, n := range []int{-1, 0, 1, api.MaxID, api.MaxID + 1} {
 			may := n >= 0 && n <= api.MaxID && (c > 0 || n > 0)
 			f, e := Answer(Fault{What: what, Stream: n}, n)
 			if may && (e != api.OK || frame.Check(f) != api.OK) || !may && (e != api.ErrArg || !frame.Same(f, api.Frame{})) {

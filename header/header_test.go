@@ -109,6 +109,28 @@ func TestFits(t *testing.T) {
 	}
 }
 
+// P2.3: the flags of each type.
+func TestFlags(t *testing.T) {
+	for kind := range 12 {
+		zero, _, _ := Needs(kind)
+		h := api.Head{Type: kind, Stream: 1}
+		if zero {
+			h.Stream = 0
+		}
+		h.Len, _ = Long(kind)
+		h.Len = max(h.Len, 0)
+		for flags, want := range []int{api.NoError, api.Protocol, api.Protocol} {
+			if flags == 1 && kind <= api.FItem {
+				want = api.NoError
+			}
+			h.Flags = flags
+			if code := Fits(h); code != want {
+				t.Error(kind, flags, code)
+			}
+		}
+	}
+}
+
 // P2.4
 func TestBack(t *testing.T) {
 	r := rand.New(rand.NewSource(1))

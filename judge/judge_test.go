@@ -122,6 +122,9 @@ func TestHarmed(t *testing.T) {
 	story(t, "the end alone", true, inject, opened(1, 1, 2), came(1, 1, "", true), item(1, 1, "", false, true))
 	story(t, "an empty item", true, inject, opened(1, 1, 2), came(1, 1, "", false), item(1, 1, "", true, false))
 	lost := heard(api.Act{Kind: api.XStep, Side: 0}, api.Told{E: api.ErrFull, N: 9})
+	back := heard(api.Act{Kind: api.XStep, Side: 1}, api.Told{E: api.ErrFull, N: 9})
+	story(t, "what was lost, the other way", true, back, opened(0, 2, 1), came(0, 2, "zz", true))
+	story(t, "what was lost, this way", false, back, opened(1, 1, 1), came(1, 1, "zz", true))
 	story(t, "what was lost", true, lost, opened(1, 1, 1), came(1, 1, "zz", true))
 }
 
@@ -149,6 +152,10 @@ func TestAnswers(t *testing.T) {
 		check("never, none", none, api.Act{Kind: k, ID: 0}, api.ErrNone)
 		check("once", []api.Heard{open(0, 1, 1, 0), act(api.XReset, 1, 0, 8, 0), done(0, 1, 8, false)}, api.Act{Kind: k, ID: 1}, api.ErrClosed)
 	}
+	check("never, the greatest", none, api.Act{Kind: api.XOffer, ID: api.MaxID - 1}, api.ErrNone, api.ErrClosed)
+	check("never, too great", none, api.Act{Kind: api.XOffer, ID: api.MaxID + 1}, api.ErrNone)
+	check("never, of side 1", none, api.Act{Kind: api.XOffer, Side: 1, ID: api.MaxID}, api.ErrNone, api.ErrClosed)
+	check("never, of side 1", none, api.Act{Kind: api.XOffer, Side: 1, ID: 2}, api.ErrNone)
 	bytes, items := []api.Heard{open(0, 1, 1, 0)}, []api.Heard{open(0, 1, 2, 1)}
 	check("read items", items, api.Act{Kind: api.XRead, ID: 1}, api.ErrKind)
 	check("item of bytes", bytes, api.Act{Kind: api.XItem, ID: 1}, api.ErrKind)
@@ -224,6 +231,18 @@ func TestClosed(t *testing.T) {
 		story(t, "no kind", true, api.Heard{A: api.Act{Kind: k, Side: 5}, T: api.Told{E: api.ErrArg}})
 		story(t, "no kind", false, api.Heard{A: api.Act{Kind: k}, T: api.Told{}})
 	}
+	for _, h := range []api.Heard{{A: api.Act{Kind: 99}, T: api.Told{E: api.ErrArg}}, {A: api.Act{Kind: api.XOpen, Side: 2}, T: api.Told{E: api.ErrRange}}, {A: api.Act{Kind: api.XTick, Side: 2}}} {
+		story(t, "of nobody", true, h)
+		for side := range 2 {
+			m := h
+			m.M[side] = []api.Move{{What: api.MOpened, Stream: 2 - side, N: 1}}
+			story(t, "nothing happens of nobody", false, m)
+			m = h
+			m.Closed[side] = true
+			story(t, "closed by nobody", true, m)
+			story(t, "open again by nobody", false, m, h)
+		}
+	}
 	for _, side := range []int{-1, 2} {
 		story(t, "no side", true, api.Heard{A: api.Act{Kind: api.XOpen, Side: side}, T: api.Told{E: api.ErrRange}})
 		story(t, "no side", false, api.Heard{A: api.Act{Kind: api.XOpen, Side: side}, T: api.Told{N: 1}})
@@ -265,6 +284,15 @@ func TestWatch(t *testing.T) {
 		t.Error("looks")
 	}
 	if a, d, told := j.Flow(0, 1).Counts(); a != 3 || d != 0 || told != 2 {
+		t.Error("counts", a, d, told)
+	}
+	w.Do(api.Act{Kind: api.XOffer, ID: 3, S: "i"})
+	for _, a := range []api.Act{{Kind: api.XAsk, Side: 1, ID: 3, N: 2}, {Kind: api.XStep, Side: 1}, {Kind: api.XDeliver, N: 900}, {Kind: api.XStep}, {Kind: api.XDeliver, Side: 1, N: 900}, {Kind: api.XItem, Side: 1, ID: 3}} {
+		if told, ok := w.Do(a); !ok {
+			t.Error(told)
+		}
+	}
+	if a, d, told := j.Flow(0, 3).Counts(); a != 1 || d != 0 || told != 1 {
 		t.Error("counts", a, d, told)
 	}
 	var none *Watch

@@ -95,7 +95,8 @@ func (s *Scan) reader() func(n int) (string, bool) {
 			s.bad = true
 			return "", false
 		}
-		got := s.left[:n]
+		// A copy, so that a few bytes do not hold on to all of a long text.
+		got := string([]byte(s.left[:n]))
 		s.left = s.left[n:]
 		return got, true
 	}

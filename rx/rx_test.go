@@ -149,6 +149,13 @@ func TestGrant(t *testing.T) {
 	if x.Due() != 2 || x.Grant() != 2 || x.Due() != 0 {
 		t.Error("the rest", x.Due())
 	}
+	for range 2 {
+		arrive(t, x, "d", false, 0, true)
+		x.Item()
+	}
+	if x.Due() != 0 || x.Grant() != 0 || x.Open() != 0 {
+		t.Error("no more was asked for", x.Due())
+	}
 	far := made(t, api.KItems, set(0, 64))
 	if far.Ask(1<<62) != api.OK || far.Ask(1<<62) != api.OK || far.Grant() != 64 {
 		t.Error("the limit")

@@ -23,6 +23,7 @@ func acts() ([]api.Act, []string) {
 		{Kind: api.XOffer, ID: 1, S: "a b"},
 		{Kind: api.XOffer, Side: 1, ID: 1},
 		{Kind: api.XOffer, ID: 1, S: ".%\x00\xffaZ09-_"},
+		{Kind: api.XOffer, ID: 1, S: "azAZ09@[`{/:"},
 		{Kind: api.XFinish, ID: 5},
 		{Kind: api.XRead, Side: 1, ID: 3, N: -1},
 		{Kind: api.XItem, ID: -9223372036854775808},
@@ -36,7 +37,7 @@ func acts() ([]api.Act, []string) {
 		{Kind: api.XTick},
 		{Kind: api.XInject, S: strings.Repeat("\n", 600)},
 	}, []string{
-		"open 1 2 1 3 16 1", "offer 0 1 a%20b", "offer 1 1 .", "offer 0 1 %2E%25%00%FFaZ09-_", "finish 0 5", "read 1 3 -1", "item 0 -9223372036854775808",
+		"open 1 2 1 3 16 1", "offer 0 1 a%20b", "offer 1 1 .", "offer 0 1 %2E%25%00%FFaZ09-_", "offer 0 1 azAZ09%40%5B%60%7B%2F%3A", "finish 0 5", "read 1 3 -1", "item 0 -9223372036854775808",
 		"ask 0 3 9223372036854775807", "move 0 3 1 2 0", "reset -7 3 8", "goaway 1", "settings 0 1 2 3", "step 1", "deliver 1 900", "tick", "inject 0 " + strings.Repeat("%0A", 600),
 	}
 }
@@ -68,7 +69,7 @@ func TestParse(t *testing.T) {
 	for _, s := range []string{
 		"", " ", "tick ", " tick", "tick 1", "Tick", "step", "step 0 0", "step  0", "step 00", "step 01", "step +1", "step -0", "step 0x1", "step 1_0", "step 9223372036854775808", "step a", "step .",
 		"open 0 1 0 0 16 2", "open 0 1 0 0 16 01", "open 0 1 0 0 16", "offer 0 1", "offer 0 1 ", "offer 0 1 a b", "offer 0 1 %", "offer 0 1 %2", "offer 0 1 %41", "offer 0 1 %2e", "offer 0 1 %G0", "offer 0 1 a.", "offer 0 1 ..",
-		"offer 0 1 é", "offer 0 1 \x00", "inject 0 " + strings.Repeat("a", 601), "tick\n", "deliver 1\t900", "none 0",
+		"offer 0 1 é", "offer 0 1 \x00", "inject 0 " + strings.Repeat("a", 601), "offer 0 1 %7A", "offer 0 1 %5A", "offer 0 1 %39", "offer 0 1 @", "offer 0 1 [", "offer 0 1 `", "offer 0 1 {", "offer 0 1 /", "offer 0 1 :", "tick\n", "deliver 1\t900", "none 0",
 	} {
 		if a, e := Parse(s); a != (api.Act{}) || e != api.ErrLine {
 			t.Errorf("%q: %v", s, a)

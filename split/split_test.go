@@ -43,6 +43,12 @@ func TestFeed(t *testing.T) {
 	if !same(l, frames()) || code != api.NoError || x.Kept() != 0 || x.Broken() != api.NoError {
 		t.Error("all at once", code)
 	}
+	if l, code := New().Feed(laid(frames()[1])); !same(l, frames()[1:2]) || code != api.NoError {
+		t.Error("nine bytes are enough")
+	}
+	if _, code := New().Feed("\x00\x00\x00\x63\x00\x00\x00\x00\x00"); code != api.Protocol {
+		t.Error("nine bytes are enough to break")
+	}
 	one := laid(frames()[4])
 	for i := range len(one) - 1 {
 		if l, code := x.Feed(one[i : i+1]); len(l) != 0 || code != api.NoError || x.Kept() != i+1 {

@@ -57,6 +57,12 @@ func TestNew(t *testing.T) {
 			t.Error(i, int(e))
 		}
 	}
+	u := made(t, 1, api.KItems, true)
+	for i := range 4 {
+		if _, e := u.Offer("i"); (e == api.OK) != (i < 3) {
+			t.Error("its Conf", i)
+		}
+	}
 	s := made(t, 1, api.KBytes, true)
 	if n, _ := s.Offer("1234567"); n != 6 || s.Rx().Open() != 10 {
 		t.Error("its Conf")

@@ -20,6 +20,7 @@ func made(t *testing.T, n int) *Table[string] {
 // P13.1
 func TestPutSet(t *testing.T) {
 	made(t, 1024)
+	made(t, 1)
 	for _, n := range []int{0, -1, 1025} {
 		if x, e := New[int](n); x != nil || e != api.ErrArg {
 			t.Error(n)

@@ -64,6 +64,34 @@ func TestTop(t *testing.T) {
 	}
 }
 
+// P35.3
+func TestTopOrder(t *testing.T) {
+	r := rand.New(rand.NewSource(2))
+	for range 300 {
+		var l []api.Sum
+		for range r.Intn(9) {
+			l = append(l, api.Sum{Stream: r.Intn(5), Sent: r.Intn(4), Came: r.Intn(4)})
+		}
+		ids := Top(l, len(l))
+		rest := slices.Clone(l)
+		for i, id := range ids {
+			best := 0
+			for k, s := range rest {
+				if b := rest[best]; s.Sent+s.Came > b.Sent+b.Came || s.Sent+s.Came == b.Sent+b.Came && s.Stream < b.Stream {
+					best = k
+				}
+			}
+			if rest[best].Stream != id {
+				t.Fatal(i, l, ids)
+			}
+			rest = slices.Delete(rest, best, best+1)
+		}
+		if len(rest) != 0 {
+			t.Fatal("not all", rest)
+		}
+	}
+}
+
 // P35.4
 func TestParts(t *testing.T) {
 	r := rand.New(rand.NewSource(1))

@@ -119,6 +119,15 @@ func TestOnce(t *testing.T) {
 		at := map[int]int{}
 		for range 40 {
 			id, tick := r.Intn(20), w.Now()+r.Intn(30)
+			first, when, is := w.Next()
+			for id, tick := range at {
+				if !is || tick < when || tick == when && id < first {
+					t.Fatal("next", first, when, at)
+				}
+			}
+			if is != (len(at) > 0) || is && at[first] != when {
+				t.Fatal("next", first, when, at)
+			}
 			switch r.Intn(5) {
 			case 0, 1, 2:
 				if w.Set(id, tick) != steps.Set(id, tick) {

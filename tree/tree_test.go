@@ -38,6 +38,7 @@ func check(t *testing.T, what string, x *Tree, want string) {
 // P14.1
 func TestInsert(t *testing.T) {
 	made(t, 256)
+	made(t, 1)
 	for _, n := range []int{0, -1, 257} {
 		if x, e := New(n); x != nil || e != api.ErrArg {
 			t.Error(n)
@@ -68,6 +69,10 @@ func TestInsert(t *testing.T) {
 			t.Error(i, int(e))
 		}
 		check(t, strconv.Itoa(i), x, c.tree)
+	}
+	far := made(t, 3)
+	if far.Insert(api.MaxID, dep(0, 256, false)) != api.OK || far.Insert(1, dep(api.MaxID, 1, false)) != api.OK || far.Parent(1) != api.MaxID {
+		t.Error("the greatest ones")
 	}
 	if (*Tree)(nil).Insert(0, dep(0, 0, false)) != api.ErrNil {
 		t.Error("nil")
