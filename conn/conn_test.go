@@ -245,6 +245,13 @@ func TestMost(t *testing.T) {
 	if x.Move(api.MaxID, api.Dep{On: api.MaxID - 1, Weight: 256}) != api.OK {
 		t.Error("move")
 	}
+	z := made(t, 1, conf())
+	if _, e := z.Open(api.KBytes, 0, api.Dep{On: api.MaxID + 1, Weight: 256}); e != api.ErrArg {
+		t.Error("too great", int(e))
+	}
+	if _, e := z.Open(api.KBytes, 0, api.Dep{On: api.MaxID, Weight: 256}); e != api.OK || z.Move(2, api.Dep{On: api.MaxID, Weight: 1}) != api.OK || z.Move(2, api.Dep{On: api.MaxID + 1, Weight: 1}) != api.ErrArg {
+		t.Error("the greatest ones", int(e))
+	}
 	c := conf()
 	c.Streams = 32
 	y := settled(t, 1, c)

@@ -317,12 +317,19 @@ func TestKilledLate(t *testing.T) {
 		if x.Stream(2) == nil || x.Recv().Kept() != 3 {
 			t.Error("it is there")
 		}
-		if own {
-			x.Reset(2, 8)
-		} else {
-			feed(t, x, fReset(2, 8))
+		open := x.Stream(1)
+		open.Offer("abc")
+		for _, id := range []int{1, 2} {
+			if own {
+				x.Reset(id, 8)
+			} else {
+				feed(t, x, fReset(id, 8))
+			}
+			moved(t, x, api.Move{What: api.MDone, Stream: id, N: 8})
 		}
-		moved(t, x, api.Move{What: api.MDone, Stream: 2, N: 8})
+		if !open.Done() || open.Tx().Told().Waiting() != 0 {
+			t.Error("its life")
+		}
 		if x.Recv().Kept() != 0 || x.Stream(2) != nil {
 			t.Error("used", x.Recv().Kept())
 		}

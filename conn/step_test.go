@@ -149,6 +149,17 @@ func TestStalls(t *testing.T) {
 	tells(t, x, fGoaway(0, api.Stalled))
 	moved(t, x, api.Move{What: api.MDone, Stream: 1, N: api.Stalled})
 	closedBy(t, x, api.Stalled)
+	// whoever has nothing to send, or may send it, is not stuck.
+	z := settled(t, 0, c)
+	z.Open(api.KBytes, 0, leaf)
+	for range 40 {
+		z.Tick()
+		z.Offer(1, "x")
+		z.Step()
+	}
+	if z.Status().Closed || z.Status().Waiting != 0 {
+		t.Error("not stuck", z.Status())
+	}
 	// what is not wanted is stuck, too; credit of other streams counts.
 	y := settled(t, 0, c)
 	y.Open(api.KItems, 0, leaf)

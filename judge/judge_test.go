@@ -104,6 +104,7 @@ func TestMoves(t *testing.T) {
 	story(t, "done, its other side going on", false, with(done(0, 1, 0, true))...)
 	story(t, "done twice", false, with(done(1, 1, 8, false), done(1, 1, 8, false))...)
 	story(t, "no such move", false, heard(api.Act{Kind: api.XStep}, api.Told{}, api.Move{What: 5, Stream: 1}))
+	story(t, "no such move of a seat", false, open(0, 1, 1, 0), heard(api.Act{Kind: api.XStep}, api.Told{}, api.Move{What: 5, Stream: 1}))
 	h := open(0, 1, 1, 0)
 	h.M[1] = []api.Move{{What: api.MOpened, Stream: 1, N: 1}}
 	story(t, "on the other side", false, h)
